@@ -3,27 +3,6 @@ package forks
 
 import "forks/api"
 
-// Encode and Decode: transactions as bytes (P7).
-func Encode(t api.Tx) (string, error) { return "", nil }
-
-func Decode(s string) (api.Tx, error) { return api.Tx{}, nil }
-
-// Base is tables with rows (P8).
-type Base struct{}
-
-// NewBase: no tables.
-func NewBase() *Base { return &Base{} }
-
-// Apply does a transaction, whole or not at all.
-func (b *Base) Apply(tx string) error { return nil }
-
-// Rows tells a table's rows, till yield says no; Tables the tables' names.
-func (b *Base) Rows(table string) func(yield func(row []api.Value) bool) {
-	return func(yield func(row []api.Value) bool) {}
-}
-
-func (b *Base) Tables() []string { return nil }
-
 // Server keeps a list of transactions, and signs what it is (P9).
 type Server struct{}
 
