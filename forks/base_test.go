@@ -123,7 +123,12 @@ func wrongAct(err error, act int, want api.Errno) bool {
 	return false
 }
 
-func rowsOf(b *Base, table string) [][]api.Value {
+// tables: a base, or a server with one.
+type tables interface {
+	Rows(table string) func(yield func(row []api.Value) bool)
+}
+
+func rowsOf(b tables, table string) [][]api.Value {
 	var l [][]api.Value
 	for row := range b.Rows(table) {
 		l = append(l, row)
@@ -161,7 +166,7 @@ func refuse(t *testing.T, b *Base, act int, want api.Errno, acts ...api.Act) {
 
 func row(l ...any) []api.Value { return rowAct(api.Insert, "", l...).Row }
 
-func expect(t *testing.T, b *Base, table string, want ...[]api.Value) {
+func expect(t *testing.T, b tables, table string, want ...[]api.Value) {
 	t.Helper()
 	if got := rowsOf(b, table); !reflect.DeepEqual(got, want) {
 		t.Errorf("%s: %v, want %v", table, got, want)

@@ -431,6 +431,8 @@ func TestNoGoroutineIsLeft(t *testing.T) {
 		Inclusion(l, workers)
 		Consistency(l, workers)
 	}
+	s, _ := servedBy(t, &scribe{}, 10)
+	served(s)
 	for i := 0; i < 200 && runtime.NumGoroutine() > was; i++ {
 		time.Sleep(10 * time.Millisecond)
 	}
