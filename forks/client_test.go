@@ -120,7 +120,6 @@ func notGood(w *ground.Registry, d api.Digest) []api.Digest {
 	}
 	for _, key := range []int{2, 4, 0, -3, 3 + 1<<32, math.MinInt, math.MaxInt} {
 		bend(func(d *api.Digest) { d.Key = key })
-		bend(func(d *api.Digest) { d.Key, d.Sign = key, w.Sign(key, signText(d.Size, d.Root)) })
 	}
 	for _, size := range []int{d.Size - 1, d.Size + 1, -d.Size - 1, d.Size + 1<<32, math.MinInt, math.MaxInt} {
 		bend(func(d *api.Digest) { d.Size = size })
@@ -145,11 +144,20 @@ func notGood(w *ground.Registry, d api.Digest) []api.Digest {
 	return l
 }
 
+// otherKeys: of a digest: the same, really signed by others.
+func otherKeys(w *ground.Registry, d api.Digest) []api.Digest {
+	var l []api.Digest
+	for _, key := range []int{2, 4, 0, -3, 3 + 1<<32, math.MinInt, math.MaxInt} {
+		l = append(l, api.Digest{Key: key, Size: d.Size, Root: d.Root, Sign: w.Sign(key, signText(d.Size, d.Root))})
+	}
+	return l
+}
+
 func TestAcceptOfWhatIsNotGood(t *testing.T) {
 	w := ground.New()
 	l := entriesOf(6)
 	all := digestsOf(w, l)
-	for _, d := range notGood(w, all[4]) {
+	for _, d := range append(notGood(w, all[4]), otherKeys(w, all[4])...) {
 		for _, proof := range [][]string{nil, proofOf(l, 2, 4), hashesOf(1)} {
 			turnDown(t, accepting(t, w), d, proof, api.ErrSign)
 			for _, last := range []int{2, 4, 6} { // what is not good is not even old, nor another story
